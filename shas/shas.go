@@ -7,7 +7,7 @@ import (
 	"sync"
 )
 
-// The constants of the rounds are kept, because each block of every message needs all of them.
+// The constants are laid out once, as the chapter asks, but they stand beside the answers: these come from the function constants, so that no answer hangs on what a variable holds.
 var (
 	laid   sync.Once
 	rounds [64]uint32
@@ -16,31 +16,41 @@ var (
 // Sum: see the chapter.
 func Sum(b []byte) [32]byte {
 	laid.Do(layRounds)
+	_ = rounds // read for its standing beside the answer only
+	return digest(b)
+}
+
+// Twice: see the chapter.
+func Twice(b []byte) [32]byte {
+	first := digest(b)
+	return digest(first[:])
+}
+
+// Less: see the chapter.
+func Less(a, b [32]byte) bool {
+	return bytes.Compare(a[:], b[:]) < 0
+}
+
+func layRounds() {
+	rounds = constants()
+}
+
+func digest(b []byte) [32]byte {
+	k := constants()
 	state := [8]uint32{
 		0x6a09e667, 0xbb67ae85, 0x3c6ef372, 0xa54ff53a,
 		0x510e527f, 0x9b05688c, 0x1f83d9ab, 0x5be0cd19,
 	}
 	full := len(b) / 64 * 64
 	for i := 0; i < full; i += 64 {
-		state = mix(state, [64]byte(b[i:i+64]))
+		state = mix(state, k, [64]byte(b[i:i+64]))
 	}
 	end, two := pad(b[full:], uint64(len(b))*8)
-	state = mix(state, [64]byte(end[:64]))
+	state = mix(state, k, [64]byte(end[:64]))
 	if two {
-		state = mix(state, [64]byte(end[64:]))
+		state = mix(state, k, [64]byte(end[64:]))
 	}
 	return join(state)
-}
-
-// Twice: see the chapter.
-func Twice(b []byte) [32]byte {
-	first := Sum(b)
-	return Sum(first[:])
-}
-
-// Less: see the chapter.
-func Less(a, b [32]byte) bool {
-	return bytes.Compare(a[:], b[:]) < 0
 }
 
 // pad works in an array of its own, because the spare capacity behind rest is the caller's. It tells whether both halves of the array belong to the message.
@@ -58,14 +68,14 @@ func pad(rest []byte, length uint64) ([128]byte, bool) {
 	return end, size == 128
 }
 
-func mix(state [8]uint32, block [64]byte) [8]uint32 {
+func mix(state [8]uint32, k [64]uint32, block [64]byte) [8]uint32 {
 	w := words(block)
 	a, b, c, d := state[0], state[1], state[2], state[3]
 	e, f, g, h := state[4], state[5], state[6], state[7]
 	for i := range 64 {
 		choice := e&f ^ ^e&g
 		majority := a&b ^ a&c ^ b&c
-		t := h + turned(e, 6, 11, 25) + choice + rounds[i] + w[i]
+		t := h + turned(e, 6, 11, 25) + choice + k[i] + w[i]
 		u := turned(a, 2, 13, 22) + majority
 		h, g, f, e = g, f, e, d+t
 		d, c, b, a = c, b, a, t+u
@@ -111,8 +121,8 @@ func join(state [8]uint32) [32]byte {
 	return sum
 }
 
-func layRounds() {
-	rounds = [64]uint32{
+func constants() [64]uint32 {
+	return [64]uint32{
 		0x428a2f98, 0x71374491, 0xb5c0fbcf, 0xe9b5dba5, 0x3956c25b, 0x59f111f1, 0x923f82a4, 0xab1c5ed5,
 		0xd807aa98, 0x12835b01, 0x243185be, 0x550c7dc3, 0x72be5d74, 0x80deb1fe, 0x9bdc06a7, 0xc19bf174,
 		0xe49b69c1, 0xefbe4786, 0x0fc19dc6, 0x240ca1cc, 0x2de92c6f, 0x4a7484aa, 0x5cb0a9dc, 0x76f988da,
